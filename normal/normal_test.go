@@ -261,6 +261,27 @@ func laidApart(noughts int) []byte {
 	return laid(append(fields, fmt.Sprintf("%02b", more), "11111")...)
 }
 
+// laidOf are the bytes that tell such parts, however many they are.
+func laidOf(c normal.Counts) []byte {
+	fields := []string{fmt.Sprintf("%04b", c.Log-5)}
+	left := 1 << c.Log
+	for i := 0; i < len(c.Part); i++ {
+		part := c.Part[i]
+		fields = append(fields, fieldOf(part, left))
+		left -= max(part, -part)
+		if part != 0 {
+			continue
+		}
+		row := 0
+		for i+1 < len(c.Part) && c.Part[i+1] == 0 {
+			row++
+			i++
+		}
+		fields = append(fields, strings.Repeat("11", row/3), fmt.Sprintf("%02b", row%3))
+	}
+	return laid(fields...)
+}
+
 // some are counts of chance: of all kinds of parts, few or many symbols, noughts among them.
 func some(r *rand.Rand) normal.Counts {
 	log := 5 + r.IntN(11)
@@ -447,7 +468,7 @@ func TestReadTellsLowByFree(t *testing.T) {
 		if left < 1<<log {
 			full := 1<<log - left
 			part = append(part, full)
-			first = told9(full)
+			first = fieldOf(full, 1<<log)
 		}
 		n := len(strconv.FormatInt(int64(left)+1, 2))
 		free := 1<<n - 2 - left
@@ -463,15 +484,17 @@ func TestReadTellsLowByFree(t *testing.T) {
 	}
 }
 
-// told9 is the field of the first symbol's part in counts of Log 9: left 512: 9 bits or 10, free 510.
-func told9(part int) string {
+// fieldOf is that of a symbol's part when so much is left.
+func fieldOf(part, left int) string {
+	n := len(strconv.FormatInt(int64(left)+1, 2))
+	free := 1<<n - 2 - left
 	switch v := part + 1; {
-	case v < 510:
-		return fmt.Sprintf("%09b", v)
-	case v < 512:
-		return fmt.Sprintf("%010b", v)
+	case v < free:
+		return fmt.Sprintf("%0*b", n-1, v)
+	case v < 1<<(n-1):
+		return fmt.Sprintf("%0*b", n, v)
 	default:
-		return fmt.Sprintf("%010b", v+510)
+		return fmt.Sprintf("%0*b", n, v+free)
 	}
 }
 
@@ -569,7 +592,78 @@ func TestReadTellsLongRowsOfNoughts(t *testing.T) {
 	whole := append(laid("0111", "000000000001"), each(1<<16, byte(255))...)
 	wantReadErr(t, whole, 15, symbols, api.ErrShort)
 	wantReadErr(t, append(whole, 0), 15, symbols, api.ErrForm)
-	wantReadErr(t, append(whole, 0), 15, math.MaxInt, api.ErrForm)
+	wantReadErr(t, append(whole, 0), 15, math.MaxInt, api.ErrShort)
+	// A row that ends, and one symbol that takes all that is left (Log 12).
+	const noughts = 1 + 3*4<<16
+	whole = append(whole, laid("00", strings.Repeat("1", 13))...)
+	want := counts(12, append(each(noughts, 0), 1<<12)...)
+	wantRead(t, whole, 15, noughts+1, want, len(whole), api.OK)
+	wantRead(t, whole, 15, math.MaxInt, want, len(whole), api.OK)
+	wantReadErr(t, whole, 15, noughts, api.ErrForm)
+	wantReadErr(t, whole[:len(whole)-1], 15, noughts, api.ErrShort)
+	wantReadErr(t, whole[:len(whole)-1], 15, noughts-1, api.ErrForm)
+}
+
+// tooMany are parts that make a power of 2, but of more symbols than counts may have: all kinds of parts, with and without noughts.
+func tooMany() []normal.Counts {
+	all := []normal.Counts{
+		apart(255),
+		apart(900),
+		counts(5, append(each(256, 0), 32)...),
+		counts(5, append(each(5000, 0), -1, 31)...),
+		counts(9, each(512, -1)...),
+		counts(9, each(512, 1)...),
+		counts(15, each(1<<15, 1)...),
+		many(9, 257),
+		many(15, 257),
+		many(15, 1000),
+	}
+	mixed := []int{}
+	for i := range 300 {
+		mixed = append(append(mixed, 1), each(i%5, 0)...)
+		mixed = append(mixed, -1, 3)
+	}
+	return append(all, counts(11, append(mixed, 1<<11-300*5)...))
+}
+
+// What more symbols than counts may have are told by is a description all the same, if so many are taken.
+func TestReadTellsMoreSymbolsThanMayBe(t *testing.T) {
+	for _, c := range tooMany() {
+		b := laidOf(c)
+		n := len(c.Part)
+		for _, most := range []int{n, n + 1, 2 * n, 1 << 31, math.MaxInt} {
+			wantRead(t, b, 15, most, c, len(b), api.OK)
+			wantRead(t, b, c.Log, most, c, len(b), api.OK)
+			wantRead(t, append(b[:len(b):len(b)], 7, 255), 15, most, c, len(b), api.OK)
+			wantReadErr(t, b, c.Log-1, most, api.ErrBig)
+			wantReadErr(t, b[:len(b)-1], 15, most, api.ErrShort)
+		}
+		for _, most := range []int{n - 1, symbols, symbols - 1, 1, 0, -1, math.MinInt} {
+			wantReadErr(t, b, 15, most, api.ErrForm)
+		}
+		wantTold(t, b, 15, n)
+		wantTold(t, b, 15, n-1)
+		// They may be told, but they may not be.
+		wantCheck(t, c, 15, api.ErrArg)
+		if b, err := normal.Write(c); err != api.ErrArg || b != nil {
+			t.Errorf("Write(%v): %d, %d; want error %d", c, b, err, api.ErrArg)
+		}
+	}
+}
+
+// The first symbol too many ends it, above 256 as below: what isn't there isn't missed, and what there is room for is.
+func TestReadEndsAtTooManySymbolsAbove256(t *testing.T) {
+	fields := []string{"1010"}
+	for i := range 301 {
+		fields = append(fields, fieldOf(1, 1<<15-i))
+	}
+	b := laid(fields...)
+	for _, most := range []int{255, 256, 257, 258, 299, 300} {
+		wantReadErr(t, b, 15, most, api.ErrForm)
+	}
+	for _, most := range []int{301, 302, 1000, math.MaxInt} {
+		wantReadErr(t, b, 15, most, api.ErrShort)
+	}
 }
 
 // However many bits are set, no part takes more than what is left: left ends at 0 just.
@@ -608,6 +702,24 @@ func TestReadOfChance(t *testing.T) {
 		}
 		wantTold(t, b, 15, symbols)
 		wantTold(t, b, 4+r.IntN(14), r.IntN(257))
+		wantTold(t, b, 15, 250+r.IntN(1000))
+		wantTold(t, b, 15, math.MaxInt)
+	}
+}
+
+// Bytes of which nearly all bits are set tell long rows of noughts.
+func TestReadOfChanceInLongRows(t *testing.T) {
+	r := rand.New(rand.NewPCG(6, 20))
+	for range 30000 {
+		b := each(3+r.IntN(60), byte(255))
+		b[0] = byte(r.IntN(256)) &^ byte(r.IntN(16))
+		b[1] = byte(r.IntN(2))
+		for range 1 + r.IntN(3) {
+			b[1+r.IntN(len(b)-1)] = byte(r.Uint32())
+		}
+		wantTold(t, b, 15, symbols)
+		wantTold(t, b, 15, 250+r.IntN(1000))
+		wantTold(t, b, 15, math.MaxInt)
 	}
 }
 
@@ -843,7 +955,7 @@ func TestWhatIsReadMayBe(t *testing.T) {
 			b[i] = byte(r.Uint32())
 		}
 		b[0] &^= byte(r.IntN(16))
-		c, n, err := normal.Read(b, 15, math.MaxInt)
+		c, n, err := normal.Read(b, 15, symbols)
 		if err != api.OK {
 			continue
 		}
@@ -858,13 +970,14 @@ func TestWhatIsReadMayBe(t *testing.T) {
 	}
 }
 
-// Whoever takes more than 256 symbols gets no counts of more, which might not be.
-func TestReadTellsNoMoreThanMayBe(t *testing.T) {
+// 256 symbols are as many as counts may have: those who take no more get none of more.
+func TestReadOf256TellsNoMoreThanMayBe(t *testing.T) {
 	for _, most := range []int{256, 257, 1000, math.MaxInt} {
 		b := laidApart(254)
 		wantRead(t, b, 15, most, apart(254), len(b), api.OK)
-		wantReadErr(t, laidApart(255), 15, most, api.ErrForm)
-		wantReadErr(t, laidApart(256), 15, most, api.ErrForm)
-		wantReadErr(t, laidApart(900), 15, most, api.ErrForm)
+		wantCheck(t, apart(254), 15, api.OK)
 	}
+	wantReadErr(t, laidApart(255), 15, 256, api.ErrForm)
+	wantReadErr(t, laidApart(256), 15, 256, api.ErrForm)
+	wantReadErr(t, laidApart(900), 15, 256, api.ErrForm)
 }
